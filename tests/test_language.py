@@ -1,0 +1,214 @@
+"""The rules of LANGUAGE.md that can be seen in a file, and where the names of the interface stand."""
+
+import ast
+import builtins
+import re
+import unittest
+from pathlib import Path
+
+ROOT = Path(__file__).resolve().parent.parent / "warycard"
+FILES = sorted(ROOT.rglob("*.py"))
+# The names of the interface that are there, by file; a class has a dict of its methods.
+INTERFACE = {
+    "errors": ("CardError", "BadSource", "BadTree", "BadProgram", "BadModule", "BadPackage", "BadLink", "BadCode",
+               "BadPaper", "BadScript", "Fault", "StepsGone", "PowerCut"),
+    "words": ("SIGNS", "is_word", "wrap", "op"),
+    "texts": ("is_integer", "is_printable", "is_name", "is_text"),
+}
+METHODS = {
+}
+BUILTINS = set("""len range enumerate zip min max sum abs sorted reversed int str bool bytes list tuple dict set
+    frozenset isinstance ord repr any all divmod pow getattr hasattr setattr iter next map Exception ValueError TypeError
+    KeyError IndexError LookupError ZeroDivisionError ArithmeticError OverflowError RuntimeError NotImplementedError
+    AttributeError StopIteration NotImplemented print super property staticmethod classmethod""".split())
+# The words that stand in no file outside of comments and docstrings, and names that nothing has.
+WORDS = ("typing", "typing_extensions", "enum", "Enum", "IntEnum", "StrEnum", "Flag", "IntFlag", "Generic", "Protocol",
+         "ABC", "ABCMeta", "namedtuple", "NamedTuple", "TypedDict", "TYPE_CHECKING", "abstractmethod")
+NAMES = ("register", "mro", "elements", "open", "input", "law", "version_info", "with_traceback", "add_note", "type")
+ATTRIBUTES = ("items", "keys", "values", "pop", "update", "append", "clear", "extend", "insert", "remove", "reverse",
+              "setdefault", "sort", "args", "encode", "decode", "hex", "fromhex", "format", "format_map")
+METHODS_OF_BUILTINS = set("""append clear copy count endswith extend find get index insert isalnum isalpha isdigit islower
+    isspace isupper items join keys ljust lower lstrip partition pop remove replace reverse rfind rjust rpartition rsplit
+    rstrip setdefault split splitlines startswith strip update upper values zfill bit_length title capitalize swapcase
+    casefold center expandtabs removeprefix removesuffix rindex isascii isdecimal isnumeric istitle isidentifier
+    isprintable translate encode decode hex sort add discard format""".split())
+
+
+def tree_of(path):
+    return ast.parse(path.read_text(encoding="utf-8"))
+
+
+def docstrings(tree):
+    """Return the nodes of all docstrings."""
+    found = []
+    for node in ast.walk(tree):
+        body = getattr(node, "body", None)
+        if isinstance(body, list) and body and isinstance(body[0], ast.Expr):
+            if isinstance(body[0].value, ast.Constant) and isinstance(body[0].value.value, str):
+                found.append(body[0].value)
+    return found
+
+
+def strings(tree):
+    skipped = docstrings(tree)
+    for node in ast.walk(tree):
+        if isinstance(node, ast.Constant) and isinstance(node.value, str) and node not in skipped:
+            yield node.value
+
+
+def defined(tree):
+    """Return the names that a file binds at its top, without imports."""
+    found = []
+    for node in tree.body:
+        if isinstance(node, (ast.FunctionDef, ast.ClassDef)):
+            found.append(node.name)
+        elif isinstance(node, ast.Assign):
+            found.extend(target.id for target in node.targets)
+    return found
+
+
+def imports(tree):
+    return [node for node in ast.walk(tree) if isinstance(node, (ast.Import, ast.ImportFrom))]
+
+
+def each_file(test):
+    """Run a test once for each file of the package, which it gets with its syntax tree."""
+    def run(self):
+        for path in FILES:
+            with self.subTest(path.name):
+                test(self, path, tree_of(path))
+    return run
+
+
+class LanguageTest(unittest.TestCase):
+    def test_files(self):
+        self.assertLessEqual(len(FILES), 100)
+        for path in ROOT.rglob("*"):
+            if "__pycache__" not in path.parts:
+                self.assertRegex(path.name, r"^[a-z0-9_]+\.py$")
+
+    @each_file
+    def test_size_and_characters(self, path, tree):
+        text = path.read_bytes().decode("ascii")
+        rows = text.split("\n")
+        self.assertLessEqual(len(rows) - 1, 399)
+        self.assertTrue(text.endswith("\n"))
+        for row in rows:
+            self.assertRegex(row, r"^[ -~]{0,120}$")
+        for node in ast.walk(tree):
+            if isinstance(node, ast.FunctionDef):
+                self.assertLessEqual(node.end_lineno - node.lineno + 1, 40, node.name)
+
+    @each_file
+    def test_imports(self, path, tree):
+        for node in imports(tree):
+            self.assertIn(node, tree.body)
+            self.assertIsInstance(node, ast.ImportFrom)
+            self.assertRegex(node.module, r"^warycard\.[a-z0-9_]+$")
+            other = defined(tree_of(ROOT / (node.module.split(".")[1] + ".py")))
+            for name in node.names:
+                self.assertIn(name.name, other)
+                self.assertIsNone(name.asname)
+
+    def test_no_ring_of_imports(self):
+        rows = {path.stem: {node.module.split(".")[1] for node in imports(tree_of(path))} for path in FILES}
+        self.assertEqual(rows["__init__"], set())
+        while rows:
+            free = [name for name, needed in rows.items() if not needed & set(rows)]
+            self.assertTrue(free, sorted(rows))
+            for name in free:
+                del rows[name]
+
+    @each_file
+    def test_module_level(self, path, tree):
+        allowed = (ast.ImportFrom, ast.FunctionDef, ast.ClassDef, ast.Assign, ast.Expr)
+        names = defined(tree) + [name.name for node in imports(tree) for name in node.names]
+        self.assertEqual(len(names), len(set(names)))
+        for node in tree.body:
+            self.assertIsInstance(node, allowed)
+            if isinstance(node, ast.Expr):
+                self.assertIs(node, tree.body[0])
+            if isinstance(node, ast.Assign):
+                self.assertEqual([type(target) for target in node.targets], [ast.Name])
+                inner = [type(part) for part in ast.walk(node.value)]
+                self.assertFalse({ast.Call, ast.Set, ast.ListComp, ast.Lambda} & set(inner))
+                self.assertLessEqual(sum(kind in (ast.Dict, ast.List) for kind in inner), 1)
+
+    @each_file
+    def test_statements_and_expressions(self, path, tree):
+        barred = (ast.Global, ast.AsyncFunctionDef, ast.AsyncFor, ast.AsyncWith, ast.Await, ast.Div, ast.MatMult)
+        for node in ast.walk(tree):
+            self.assertNotIsInstance(node, barred)
+            if isinstance(node, ast.Constant):
+                self.assertNotIsInstance(node.value, (float, complex))
+            if isinstance(node, (ast.FunctionDef, ast.ClassDef)):
+                self.assertEqual(node.decorator_list, [])
+            if isinstance(node, ast.Compare):
+                for sign, right in zip(node.ops, node.comparators):
+                    if isinstance(sign, (ast.Is, ast.IsNot)):
+                        self.assertIn(ast.unparse(right), ("None", "True", "False"))
+            if isinstance(node, ast.ExceptHandler):
+                self.assertIsNotNone(node.type)
+
+    @each_file
+    def test_names(self, path, tree):
+        taken = set(defined(tree)) | {name.name for node in imports(tree) for name in node.names}
+        barred = {name.name for node in imports(tree) for name in node.names}
+        barred |= {node.name for node in ast.walk(tree) if isinstance(node, ast.ClassDef)}
+        for node in ast.walk(tree):
+            if isinstance(node, ast.arg):
+                bound = node.arg
+            elif isinstance(node, ast.Name) and isinstance(node.ctx, ast.Store):
+                bound = node.id
+            elif isinstance(node, (ast.MatchAs, ast.MatchStar)):
+                bound = node.name
+            else:
+                continue
+            self.assertFalse(bound in dir(builtins), bound)
+            self.assertNotIn(bound, NAMES)
+            self.assertNotIn(bound, barred)
+        for node in ast.walk(tree):
+            if isinstance(node, ast.Name) and isinstance(node.ctx, ast.Load) and node.id in dir(builtins):
+                self.assertTrue(node.id in BUILTINS and node.id not in taken, node.id)
+
+    def test_attributes(self):
+        rows = [tree_of(path) for path in FILES]
+        own = {part.name for tree in rows for node in ast.walk(tree) if isinstance(node, ast.ClassDef)
+               for part in node.body if isinstance(part, ast.FunctionDef)}
+        stored = {node.attr for tree in rows for node in ast.walk(tree)
+                  if isinstance(node, ast.Attribute) and isinstance(node.ctx, ast.Store)}
+        read = {node.attr for tree in rows for node in ast.walk(tree) if isinstance(node, ast.Attribute)}
+        self.assertFalse(stored & set(ATTRIBUTES))
+        self.assertFalse(read & set(NAMES))
+        self.assertFalse(read - stored - own - METHODS_OF_BUILTINS)
+        # No rule asks for this one, but it is the plainest way to keep L18.
+        self.assertFalse(own & stored)
+
+    @each_file
+    def test_strings_and_words(self, path, tree):
+        for text in strings(tree):
+            self.assertNotIn(chr(37), text)
+            self.assertFalse(text.endswith(("._", ".__")))
+            self.assertFalse(set(re.findall(r"\w+", text)) & set(WORDS), text)
+            self.assertNotRegex(text, r"[\x00-\x09\x0b-\x1f\x7f]")
+        for node in ast.walk(tree):
+            if isinstance(node, (ast.Name, ast.Attribute, ast.FunctionDef, ast.ClassDef)):
+                name = getattr(node, "id", getattr(node, "attr", getattr(node, "name", "")))
+                self.assertNotIn(name, WORDS + NAMES)
+                self.assertTrue(name in ("__init__",) or re.match(r"^_?[A-Za-z][A-Za-z0-9_]*$|^_$", name), name)
+
+    def test_interface(self):
+        for stem, names in INTERFACE.items():
+            found = defined(tree_of(ROOT / (stem + ".py")))
+            for name in names:
+                self.assertIn(name, found)
+        for (stem, name), methods in METHODS.items():
+            for node in tree_of(ROOT / (stem + ".py")).body:
+                if isinstance(node, ast.ClassDef) and node.name == name:
+                    own = [part.name for part in node.body if isinstance(part, ast.FunctionDef)]
+            for method in methods:
+                self.assertIn(method, own)
+
+
+if __name__ == "__main__":
+    unittest.main()

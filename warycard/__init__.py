@@ -1,0 +1,1 @@
+"""Warycard: a card for programs that do not trust one another."""
