@@ -8,30 +8,40 @@ from pathlib import Path
 
 ROOT = Path(__file__).resolve().parent.parent / "warycard"
 FILES = sorted(ROOT.rglob("*.py"))
-# The names of the interface that are there, by file; a class has a dict of its methods.
+# The names of the interface that are there, by file, and the methods of its classes.
 INTERFACE = {
     "errors": ("CardError", "BadSource", "BadTree", "BadProgram", "BadModule", "BadPackage", "BadLink", "BadCode",
                "BadPaper", "BadScript", "Fault", "StepsGone", "PowerCut"),
     "words": ("SIGNS", "is_word", "wrap", "op"),
     "texts": ("is_integer", "is_printable", "is_name", "is_text"),
+    "tokens": ("KEYWORDS", "is_free_name", "tokens"),
+    "forms": ("is_tree",),
+    "syntax": ("parse",),
+    "printing": ("write",),
+    "packages": ("Package",),
 }
 METHODS = {
+    ("packages", "Package"): ("fits", "is_known", "heads"),
 }
-BUILTINS = set("""len range enumerate zip min max sum abs sorted reversed int str bool bytes list tuple dict set
-    frozenset isinstance ord repr any all divmod pow getattr hasattr setattr iter next map Exception ValueError TypeError
-    KeyError IndexError LookupError ZeroDivisionError ArithmeticError OverflowError RuntimeError NotImplementedError
-    AttributeError StopIteration NotImplemented print super property staticmethod classmethod""".split())
+BUILTINS = set("""
+    len range enumerate zip min max sum abs sorted reversed int str bool bytes list tuple dict set frozenset
+    isinstance ord repr any all divmod pow getattr hasattr setattr iter next map Exception ValueError TypeError
+    KeyError IndexError LookupError ZeroDivisionError ArithmeticError OverflowError RuntimeError
+    NotImplementedError AttributeError StopIteration NotImplemented print super property staticmethod classmethod
+""".split())
 # The words that stand in no file outside of comments and docstrings, and names that nothing has.
 WORDS = ("typing", "typing_extensions", "enum", "Enum", "IntEnum", "StrEnum", "Flag", "IntFlag", "Generic", "Protocol",
          "ABC", "ABCMeta", "namedtuple", "NamedTuple", "TypedDict", "TYPE_CHECKING", "abstractmethod")
 NAMES = ("register", "mro", "elements", "open", "input", "law", "version_info", "with_traceback", "add_note", "type")
 ATTRIBUTES = ("items", "keys", "values", "pop", "update", "append", "clear", "extend", "insert", "remove", "reverse",
               "setdefault", "sort", "args", "encode", "decode", "hex", "fromhex", "format", "format_map")
-METHODS_OF_BUILTINS = set("""append clear copy count endswith extend find get index insert isalnum isalpha isdigit islower
-    isspace isupper items join keys ljust lower lstrip partition pop remove replace reverse rfind rjust rpartition rsplit
-    rstrip setdefault split splitlines startswith strip update upper values zfill bit_length title capitalize swapcase
+METHODS_OF_BUILTINS = set("""
+    append clear copy count endswith extend find get index insert isalnum isalpha isdigit islower isspace isupper
+    items join keys ljust lower lstrip partition pop remove replace reverse rfind rjust rpartition rsplit rstrip
+    setdefault split splitlines startswith strip update upper values zfill bit_length title capitalize swapcase
     casefold center expandtabs removeprefix removesuffix rindex isascii isdecimal isnumeric istitle isidentifier
-    isprintable translate encode decode hex sort add discard format""".split())
+    isprintable translate encode decode hex sort add discard format
+""".split())
 
 
 def tree_of(path):
@@ -160,7 +170,7 @@ class LanguageTest(unittest.TestCase):
                 bound = node.arg
             elif isinstance(node, ast.Name) and isinstance(node.ctx, ast.Store):
                 bound = node.id
-            elif isinstance(node, (ast.MatchAs, ast.MatchStar)):
+            elif isinstance(node, (ast.MatchAs, ast.MatchStar, ast.FunctionDef)):
                 bound = node.name
             else:
                 continue

@@ -22,8 +22,9 @@ def is_printable(value):
 
 def is_name(value):
     """Tell whether a value is a name, be it a keyword or not."""
-    if not isinstance(value, str) or not 1 <= len(value) <= MOST_NAME:
+    if not isinstance(value, str) or len(value) > MOST_NAME:
         return False
+    # The empty string is not alphanumeric, so there is a first character.
     return value.isascii() and value.isalnum() and value[0].isalpha()
 
 
