@@ -19,9 +19,16 @@ INTERFACE = {
     "syntax": ("parse",),
     "printing": ("write",),
     "packages": ("Package",),
+    "core": ("is_core",),
+    "checking": ("check",),
+    "naming": ("source",),
+    "plain": ("PlainCard",),
+    "instructions": ("NAMES",),
 }
 METHODS = {
     ("packages", "Package"): ("fits", "is_known", "heads"),
+    ("plain", "PlainCard"): ("load", "make", "choose", "send", "drop", "collect", "reset", "cut", "state", "used",
+                             "chosen"),
 }
 BUILTINS = set("""
     len range enumerate zip min max sum abs sorted reversed int str bool bytes list tuple dict set frozenset
@@ -79,6 +86,30 @@ def defined(tree):
 
 def imports(tree):
     return [node for node in ast.walk(tree) if isinstance(node, (ast.Import, ast.ImportFrom))]
+
+
+def functions(tree):
+    return [node for node in ast.walk(tree) if isinstance(node, ast.FunctionDef)]
+
+
+def captured(node):
+    """Return the names that patterns below a node capture."""
+    found = {part.name for part in ast.walk(node) if isinstance(part, (ast.MatchAs, ast.MatchStar))}
+    return found - {None}
+
+
+def parents(tree):
+    return {child: node for node in ast.walk(tree) for child in ast.iter_child_nodes(node)}
+
+
+def tables(path, tree):
+    """Return the names of the lists and dicts at the top of a file, imported ones too."""
+    found = {node.targets[0].id for node in tree.body
+             if isinstance(node, ast.Assign) and isinstance(node.value, (ast.Dict, ast.List))}
+    for node in imports(tree):
+        other = ROOT / (node.module.split(".")[1] + ".py")
+        found |= {name.name for name in node.names if name.name in tables(other, tree_of(other))}
+    return found
 
 
 def each_file(test):
@@ -180,6 +211,65 @@ class LanguageTest(unittest.TestCase):
         for node in ast.walk(tree):
             if isinstance(node, ast.Name) and isinstance(node.ctx, ast.Load) and node.id in dir(builtins):
                 self.assertTrue(node.id in BUILTINS and node.id not in taken, node.id)
+
+    @each_file
+    def test_captured_names(self, path, tree):
+        for function in functions(tree):
+            names = captured(function)
+            others = {part.arg for part in ast.walk(function) if isinstance(part, ast.arg)}
+            others |= {part.id for part in ast.walk(function)
+                       if isinstance(part, ast.Name) and isinstance(part.ctx, (ast.Store, ast.Del))}
+            others |= {part.name for part in ast.walk(function) if isinstance(part, ast.ExceptHandler)}
+            self.assertFalse(names & others, function.name)
+            inside = {}
+            for case in [part for part in ast.walk(function) if isinstance(part, ast.match_case)]:
+                for name in captured(case.pattern):
+                    inside.setdefault(name, set()).update(ast.walk(case))
+            for part in ast.walk(function):
+                if isinstance(part, ast.Name) and part.id in names:
+                    self.assertIn(part, inside[part.id], part.id)
+
+    @each_file
+    def test_patterns(self, path, tree):
+        for node in ast.walk(tree):
+            if isinstance(node, ast.MatchOr):
+                self.assertFalse([part for part in ast.walk(node) if isinstance(part, (ast.MatchAs, ast.MatchStar))])
+            self.assertNotIsInstance(node, (ast.MatchClass, ast.MatchMapping))
+            if isinstance(node, ast.MatchStar):
+                self.assertIsNotNone(node.name)
+
+    @each_file
+    def test_tables_are_only_read(self, path, tree):
+        names = tables(path, tree)
+        above = parents(tree)
+        for node in ast.walk(tree):
+            if not isinstance(node, ast.Name) or node.id not in names or not isinstance(node.ctx, ast.Load):
+                continue
+            around = above[node]
+            if isinstance(around, ast.Attribute):
+                self.assertIn(around.attr, ("get", "index", "count", "items", "keys", "values"))
+            elif isinstance(around, ast.Call):
+                self.assertIn(around.func.id, ("len", "list", "tuple", "dict", "sorted", "sum", "min", "max", "any", "all"))
+            elif isinstance(around, ast.Subscript):
+                self.assertIs(around.value, node)
+                # A function of a table gets a name before it is called.
+                self.assertNotIsInstance(above[around], ast.Call)
+            else:
+                self.assertIsInstance(around, (ast.For, ast.comprehension, ast.Compare))
+
+    @each_file
+    def test_calls(self, path, tree):
+        """A method of a builtin value has no keywords, and no comprehension stands for a generator."""
+        for node in ast.walk(tree):
+            self.assertNotIsInstance(node, (ast.GeneratorExp, ast.Lambda, ast.Yield, ast.YieldFrom, ast.NamedExpr))
+            if isinstance(node, ast.Call):
+                self.assertIsInstance(node.func, (ast.Name, ast.Attribute))
+                if isinstance(node.func, ast.Attribute) and node.func.attr in METHODS_OF_BUILTINS:
+                    self.assertEqual(node.keywords, [])
+            if isinstance(node, ast.FunctionDef):
+                self.assertFalse([part for part in ast.walk(node) if isinstance(part, ast.FunctionDef) and part is not node])
+            if isinstance(node, ast.Raise) and node.exc is not None:
+                self.assertIsInstance(node.exc, ast.Call)
 
     def test_attributes(self):
         rows = [tree_of(path) for path in FILES]

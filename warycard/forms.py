@@ -1,6 +1,7 @@
 """Tells source trees from other values (points 206 to 208)."""
 
 from warycard.limits import MOST_INT, MOST_NESTED, MOST_VERSION
+from warycard.shapes import begins, first, is_row, is_tuple
 from warycard.texts import is_integer, is_text
 from warycard.tokens import is_free_name
 from warycard.words import SIGNS
@@ -47,72 +48,53 @@ EXPRESSIONS = {
 
 def is_tree(value):
     """Tell whether a value is a source tree."""
-    if not _begins(value, "package", 7):
+    if not begins(value, "package", 7):
         return False
     _, name, version, uses, faces, classes, applets = value
     return (
         is_free_name(name)
         and is_integer(version, 0, MOST_VERSION)
-        and _is_row(uses, _is_use)
-        and _is_row(faces, _is_face)
-        and _is_row(classes, _is_class)
-        and _is_row(applets, is_free_name)
+        and is_row(uses, _is_use)
+        and is_row(faces, _is_face)
+        and is_row(classes, _is_class)
+        and is_row(applets, is_free_name)
     )
 
 
-def _is_tuple(value, length):
-    return isinstance(value, tuple) and len(value) == length
-
-
-def _begins(value, word, length):
-    return _is_tuple(value, length) and _first(value) == word
-
-
-def _first(value):
-    """Return the first item of a tuple if it is a string, otherwise the empty string."""
-    if not isinstance(value, tuple) or len(value) == 0 or not isinstance(value[0], str):
-        return ""
-    return value[0]
-
-
-def _is_row(value, test):
-    return isinstance(value, tuple) and all([test(item) for item in value])
-
-
 def _is_use(value):
-    return _is_tuple(value, 2) and is_free_name(value[0]) and is_integer(value[1], 0, MOST_VERSION)
+    return is_tuple(value, 2) and is_free_name(value[0]) and is_integer(value[1], 0, MOST_VERSION)
 
 
 def _is_face(value):
-    return _begins(value, "face", 3) and is_free_name(value[1]) and _is_row(value[2], _is_head)
+    return begins(value, "face", 3) and is_free_name(value[1]) and is_row(value[2], _is_head)
 
 
 def _is_class(value):
-    if not _begins(value, "class", 6):
+    if not begins(value, "class", 6):
         return False
     _, name, parent, faces, fields, methods = value
     return (
         is_free_name(name)
         and (parent is None or is_free_name(parent))
-        and _is_row(faces, _is_named)
-        and _is_row(fields, _is_pair)
-        and _is_row(methods, _is_method)
+        and is_row(faces, _is_named)
+        and is_row(fields, _is_pair)
+        and is_row(methods, _is_method)
     )
 
 
 def _is_method(value):
-    return _begins(value, "method", 5) and _is_head(value[1:4]) and _is_body(value[4], 1)
+    return begins(value, "method", 5) and _is_head(value[1:4]) and _is_body(value[4], 1)
 
 
 def _is_head(value):
-    if not _is_tuple(value, 3):
+    if not is_tuple(value, 3):
         return False
     name, params, result = value
-    return is_free_name(name) and _is_row(params, _is_pair) and (result is None or _is_kind(result))
+    return is_free_name(name) and is_row(params, _is_pair) and (result is None or _is_kind(result))
 
 
 def _is_pair(value):
-    return _is_tuple(value, 2) and _is_kind(value[0]) and is_free_name(value[1])
+    return is_tuple(value, 2) and _is_kind(value[0]) and is_free_name(value[1])
 
 
 def _is_kind(value):
@@ -122,9 +104,9 @@ def _is_kind(value):
 
 
 def _is_named(value):
-    if _begins(value, "name", 2):
+    if begins(value, "name", 2):
         return is_free_name(value[1])
-    return _begins(value, "of", 3) and is_free_name(value[1]) and is_free_name(value[2])
+    return begins(value, "of", 3) and is_free_name(value[1]) and is_free_name(value[2])
 
 
 def _is_body(value, depth):
@@ -136,11 +118,11 @@ def _is_args(value, depth):
 
 
 def _is_statement(value, depth):
-    return _has_parts(value, STATEMENTS.get(_first(value)), depth)
+    return _has_parts(value, STATEMENTS.get(first(value)), depth)
 
 
 def _is_expression(value, depth):
-    return _has_parts(value, EXPRESSIONS.get(_first(value)), depth)
+    return _has_parts(value, EXPRESSIONS.get(first(value)), depth)
 
 
 def _has_parts(value, parts, depth):
@@ -160,7 +142,7 @@ def _is_part(value, part, depth):
         case "choice":
             return value is None or _is_expression(value, depth)
         case "call":
-            return _first(value) == "call" and _is_expression(value, depth)
+            return first(value) == "call" and _is_expression(value, depth)
     return _is_leaf(value, part)
 
 
