@@ -230,6 +230,12 @@ class StepTest(unittest.TestCase):
         self.assertEqual(answer(LOOP.format(1000) + "return 0;"), fault(STEPS))
         self.assertEqual(answer("while (1) { } return 0;"), fault(STEPS))
 
+        # A loop that is left within a round takes no step behind it.
+        body = "int i = 0; while (1) {{ i = i + 1; if (i == {}) {{ return 0; }} }}"
+        self.assertEqual(answer(body.format(1000)), ("ok", ()))
+        self.assertEqual(answer(body.format(1001)), fault(STEPS))
+        self.assertEqual(answer(body.replace("return 0;", "throw 7;").format(1000)), fault(7))
+
     def test_steps_of_calls(self):
         for call in ("this.back(1)", "f.back(1)"):
             body = "F f = this; " + LOOP.replace("i = i + 1;", f"i = i + {call};")
@@ -329,6 +335,25 @@ class OwnerTest(unittest.TestCase):
                            ("return f.me() is p.F;", 1), ("return (f as p.F) == f;", 1), ("return f.asks(null);", 0)):
             found = self.run_aside(body)
             self.assertEqual((found[0], len(found[1])), ("ok", many), body)
+
+    def test_looks_at_objects(self):
+        text = """package q 1; use p 1; class C has p.F { nothing made(int k) { } int process(int k) { p.F f = seek p.F "one";
+            p.F g = seek p.F "three"; if (1) { %s } return 0; } bytes give(int k) { return null; } p.F me() { return this; }
+            int take(p.F f) { return 0; } int read(bytes b) { return 0; } nothing write(bytes b) { } int long(bytes b)
+            { return 0; } int asks(p.F f) { return 0; } int cast(p.F f) { return 0; } int seen(p.F f) { return 0; }
+            int nulls(bytes b, p.F f) { return 0; } int mine() { return 0; } } applet C;"""
+        for body, found in (("return f.asks(this);", fault(LOOK)), ("return f.cast(this);", fault(LOOK)),
+                            ("return f.asks(g);", fault(LOOK)), ("return f.cast(g);", fault(LOOK)),
+                            ("return f.asks(f);", ("ok", (0,))), ("return f.cast(f);", ("ok", ())),
+                            ("return g.asks(g);", ("ok", (0,))), ("return f.cast(null);", fault(NULL)),
+                            ("return f.seen(this);", ("ok", (0,))), ("return f.seen(g);", ("ok", (0,))),
+                            ("return f.asks(null);", ("ok", ())), ("return this is C;", ("ok", (0,))),
+                            ("return f is C;", fault(LOOK)), ("return (f as C) == null;", fault(LOOK))):
+            card = card_of(self.OTHER, text.replace("%s", body))
+            for package, name, applet in (("p", "A", "one"), ("q", "C", "two"), ("p", "A", "three")):
+                self.assertEqual(card.make(package, name, applet, ()), OK)
+            card.choose(0, "two")
+            self.assertEqual(card.send(0, ()), found, body)
 
     def test_foreign_bytes_given_back(self):
         for use, code in (("return f.read(new bytes(1));", LOOK), ("f.write(new temp(1));", LOOK),

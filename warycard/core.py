@@ -83,7 +83,7 @@ def _is_head(value):
     if not is_tuple(value, 3):
         return False
     name, params, result = value
-    return is_free_name(name) and _is_list(params, has_kind_form) and has_kind_form(result) and len(result) > 0
+    return is_free_name(name) and _is_list(params, has_kind_form) and has_kind_form(result)
 
 
 def _is_class(value):
