@@ -172,6 +172,46 @@ def run_code(method, slots, oracle, calls):
         return ("stopped",)
 
 
+def changes_of(instruction, calls):
+    """Return how many values an instruction takes from the stack, and how many it puts there."""
+    word = instruction[0]
+    if word in ("const", "null", "load"):
+        return 0, 1
+    if word in ("store", "pop", "jumpif", "jumpnot", "throw", "returnv"):
+        return 1, 0
+    if word in ("neg", "not"):
+        return 1, 1
+    if word in ("op", "same"):
+        return 2, 1
+    if word in ("jump", "return"):
+        return 0, 0
+    return calls[instruction] if word in ("callc", "callf") else ARITIES[word]
+
+
+def stack_of(method, calls):
+    """Return the greatest height of the stack of a method."""
+    code, handlers = method[6:]
+    found, waiting = {}, [(0, 0)]
+    while waiting:
+        place, height = waiting.pop()
+        if place in found:
+            assert found[place] == height
+            continue
+        found[place] = height
+        word = code[place][0]
+        takes, gives = changes_of(code[place], calls)
+        assert height >= takes
+        after = height - takes + gives
+        if word not in ("jump", "return", "returnv", "throw"):
+            waiting.append((place + 1, after))
+        if word.startswith("jump"):
+            waiting.append((code[place][1], after))
+        waiting.extend((at, 1) for first, last, at in handlers if first <= place < last)
+    heights = [max(height, height - takes + gives) for place, height in found.items()
+               for takes, gives in [changes_of(code[place], calls)]]
+    return max(heights)
+
+
 def step(instruction, place, stack, slots, oracle, calls):
     """Run an instruction, and return the place behind it."""
     word, rest = instruction[0], instruction[1:]

@@ -4,7 +4,7 @@ import unittest
 from copy import deepcopy
 from random import Random
 
-from machines import Oracle, calls_of, run_code, run_tree
+from machines import Oracle, calls_of, run_code, run_tree, stack_of
 from programs import BYTES, INT, NOTHING, PAY, Programs
 from warycard.compiling import build
 from warycard.core import is_core
@@ -241,6 +241,18 @@ class StatementTest(unittest.TestCase):
                                 variables=(INT,) * 3)[6:]
         self.assertEqual(handlers, ((0, 1, 2), (3, 4, 5), (6, 7, 8)))
 
+    def test_stack_of_each_instruction(self):
+        # What is ahead of the instruction is not higher than what is behind it, or the other way round.
+        for e, height in ((("null",), 1), (("buffer",), 1), (("new", 0), 1), (("seek", F, "x"), 1)):
+            self.assertEqual(method_of((("set", 1, ("same", e, e)),))[5], height + 1)
+            self.assertEqual(method_of((("set", 1, ("is", e, A)),) if e != ("buffer",) else (("set", 1, ("size", e)),))[5], height)
+        for e in (("neg", X), ("not", X), ("get", THIS, 0, 0), ("size", ("buffer",)), ("size", ("bytes", X)), ("size", ("temp", X)),
+                  ("is", THIS, A), ("is", ("as", THIS, F), A)):
+            self.assertEqual(method_of((("throw", e),))[5], 1)
+            self.assertEqual(method_of((("throw", ("op", "+", e, e)),))[5], 2)
+        for word in ("begin", "commit", "abort"):
+            self.assertEqual(method_of(((word,), (word,)))[5], 0)
+
     def test_stack(self):
         for body, height in (((), 0), ((("set", 1, Y),), 1), ((("throw", ("op", "+", X, ("op", "+", Y, Z))),), 3),
                              ((("store", ("buffer",), X, ("op", "+", Y, Z)),), 4), ((("put", THIS, 0, 0, X),), 2),
@@ -334,10 +346,11 @@ class ImprovementTest(unittest.TestCase):
     def test_first_if_and_while(self):
         bodies = ((), (("begin",),), (("set", 1, Y), ("if", X, (("begin",),), (("abort",),))), (BACK,), (("throw", X),),
                   (("while", X, (("begin",),)),), (("if", Y, (BACK,), (("throw", ONE),)),),
-                  (("try", (("begin",),), 4, (("abort",),)),), (("while", ONE, (("begin",),)),),
+                  (("try", (("begin",),), 4, (("abort",),)),), (("while", ONE, (("begin",),)),), (("if", X, (("begin",),), ()),),
                   (("if", ONE, (("begin",),), ()),), (("while", ZERO, (BACK,)),), (("while", TWO, (BACK,)),))
-        tests = ((ONE, 1), (ZERO, 0), (("neg", ONE), -1), (("not", ZERO), 1), (("op", "-", ONE, ONE), 0),
-                 (("and", ZERO, ("op", "/", ONE, ZERO)), 0), (("or", ONE, ("op", "mod", ONE, ZERO)), 1))
+        tests = ((ONE, 1), (ZERO, 0), (("neg", ONE), -1), (("not", ZERO), 1), (("op", "-", ONE, ONE), 0), (("and", TWO, ONE), 1),
+                 (("and", ZERO, ("op", "/", ONE, ZERO)), 0), (("or", ONE, ("op", "mod", ONE, ZERO)), 1), (("and", ONE, ZERO), 0),
+                 (("or", ZERO, TWO), 1), (("or", ZERO, ZERO), 0))
         more = {"variables": (INT,)}
         for e, worth in tests:
             for rest in ((), (("commit",),), (BACK,)):
@@ -419,6 +432,7 @@ class ImprovementTest(unittest.TestCase):
             for tree, plain, better in zip(trees, build(core, improve=False)[6], build(core)[6]):
                 calls = {}
                 calls_of(tree[4], calls)
+                self.assertEqual([method[5] for method in (plain, better)], [stack_of(method, calls) for method in (plain, better)])
                 for round_ in range(3):
                     chance = Random(seed * 10 + round_)
                     slots = [chance.choice((0, 1, 2, 5, -1)) for _ in range(1 + len(tree[1]) + len(tree[3]))]

@@ -234,6 +234,22 @@ class LanguageTest(unittest.TestCase):
             for part in ast.walk(function):
                 if isinstance(part, ast.Name) and part.id in names:
                     self.assertIn(part, inside[part.id], part.id)
+                if isinstance(part, (ast.ListComp, ast.DictComp, ast.SetComp)):
+                    first = list(ast.walk(part.generators[0].iter))
+                    read = {one.id for one in ast.walk(part) if isinstance(one, ast.Name) and one not in first}
+                    self.assertFalse(read & names, function.name)
+
+    @each_file
+    def test_names_in_classes(self, path, tree):
+        barred = ("property", "staticmethod", "classmethod", "super", "args")
+        for node in [part for part in tree.body if isinstance(part, ast.ClassDef)]:
+            for part in ast.walk(node):
+                names = [getattr(part, word, None) for word in ("id", "arg", "name", "attr")]
+                self.assertFalse(set(barred) & set(names))
+                if isinstance(part, ast.Assign):
+                    for target in part.targets:
+                        # An attribute is assigned through a local name.
+                        self.assertFalse(isinstance(target, ast.Attribute) and not isinstance(target.value, ast.Name))
 
     @each_file
     def test_patterns(self, path, tree):

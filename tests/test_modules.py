@@ -120,6 +120,7 @@ class ModuleTest(unittest.TestCase):
         for methods, rows in (
             ((one, two), (first[:1],)), ((one,), (first,)), ((one, two), (first + (quiet + (0,),),)), ((two, one), (first,)),
             ((one, two), ((quiet + (1,), other + (0,)),)), ((one, two), ((quiet + (0,), other + (0,)),)),
+            ((heir, one, two), ((quiet + (1,), other + (2,)), (quiet + (0,), other + (2,)))),
             ((one, two), (first, first[::-1])), ((one, two), (first, first[:1])), ((one, two), (first, ())),
             ((one, two, heir), (first, first)), ((one, two, heir), (first, (quiet + (2,), other + (2,)))),
             ((one, two, heir), (first, (quiet + (2,), other + (1,)), first)), ((heir, one, two), (first, first)),
@@ -160,6 +161,11 @@ class ModuleTest(unittest.TestCase):
             self.right(with_code((instruction,), **bank))
         for instruction in wrong:
             self.wrong(with_code((instruction,), **bank))
+        for instruction in CODE:
+            for place in range(len(instruction)):
+                for value in ANY:
+                    module = replaced(MODULE, (6, 1, 6, CODE.index(instruction), place), value)
+                    self.assertIs(is_module(module), is_right(module))
         for word in ("jump", "jumpif", "jumpnot"):
             self.right(with_code(((word, 1), (word, 0))))
             self.wrong(with_code(((word, 2), (word, 0))))

@@ -41,9 +41,8 @@ class Code:
                 return is_integer(value, 0, self._classes[instruction[1]][0] - 1)
             case "row":
                 return is_integer(value, 0, self._classes[instruction[1]][1] - 1)
-            case "package":
-                return self._known.most_heads(value, instruction[2]) >= 0
             case "head":
+                # The package and the face ahead of it are looked at here, too.
                 return is_integer(value, 0, self._known.most_heads(instruction[1], instruction[2]) - 1)
             case "object":
                 return self._known.is_object(value)
@@ -60,7 +59,7 @@ def _is_leaf(value, part):
             return is_text(value)
         case "sign":
             return isinstance(value, str) and value in SIGNS
-    # The name of a face was looked at together with that of its package.
+    # The package and the face of a "callf" are looked at together with the number behind them.
     return True
 
 

@@ -128,11 +128,11 @@ class Coder:
 
     def _code_call(self, e, many):
         """Make the lines of a call that puts so many values on the stack."""
-        args = e[-1]
+        given = e[-1]
         self._code_value(e[1])
-        self._code_values(args)
+        self._code_values(given)
         call = (e[0],) + e[2:-1]
-        self.changes[call] = many - 1 - len(args)
+        self.changes[call] = many - 1 - len(given)
         self.lines.append(call)
 
     def _code_choice(self, e):

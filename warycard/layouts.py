@@ -5,19 +5,27 @@ a word and more: "list" and the layout of the items, or "tuple" and the layouts
 of all items.
 """
 
-HEAD = ("tuple", "string", ("list", "kind"), "kind")
-FACE = ("tuple", "string", ("list", HEAD))
-ROW = ("tuple", "string", ("list", "kind"), "kind", "number")
-CLASS = ("tuple", "string", "parent", ("list", "kind"), ("list", "kind"), ("list", ROW))
-HANDLER = ("tuple", "number", "number", "number")
-METHOD = (
-    "tuple", "number", "string", ("list", "kind"), "kind", ("list", "kind"), "number", ("list", "instruction"),
-    ("list", HANDLER),
-)
 # The first item of a module, the word "module", is left out.
 MODULE = (
-    "tuple", "string", "number", ("list", ("tuple", "string", "number")), ("list", FACE), ("list", CLASS),
-    ("list", METHOD), ("list", "number"),
+    "tuple",
+    "string",
+    "number",
+    # The used packages.
+    ("list", ("tuple", "string", "number")),
+    # The faces, each with its heads.
+    ("list", ("tuple", "string", ("list", ("tuple", "string", ("list", "kind"), "kind")))),
+    # The classes, each with its rows.
+    ("list", (
+        "tuple", "string", "parent", ("list", "kind"), ("list", "kind"),
+        ("list", ("tuple", "string", ("list", "kind"), "kind", "number")),
+    )),
+    # The methods, each with its handlers.
+    ("list", (
+        "tuple", "number", "string", ("list", "kind"), "kind", ("list", "kind"), "number", ("list", "instruction"),
+        ("list", ("tuple", "number", "number", "number")),
+    )),
+    # The applets.
+    ("list", "number"),
 )
 # The first items of kinds and results, in the order of their numbers, and what follows behind them.
 KINDS = ("int", "bytes", "nothing", "class", "face")

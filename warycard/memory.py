@@ -13,6 +13,10 @@ class Thing:
         self.keeper = keeper
         self.held = held
 
+    def hold(self, row):
+        """Take other values."""
+        self.held = row
+
     def clear_temp(self):
         """Forget the values if they do not last without power."""
         if self.form == ("temp",):
@@ -58,7 +62,7 @@ class Memory:
 
     def fill(self, data):
         """Fill the buffer."""
-        self.buffer.held = list(data) + [0] * (MOST_BUFFER - len(data))
+        self.buffer.hold(list(data) + [0] * (MOST_BUFFER - len(data)))
 
     def make(self, form, keeper, held):
         """Make an object, and return it."""

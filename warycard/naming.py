@@ -25,7 +25,7 @@ class Naming:
         self._classes = core[5]
         self._package = Package(core, used)
         # The params and variables of the method, and its first slot that has no name yet.
-        self._given = ()
+        self._variables = ()
         self._later = 1
 
     def face(self, face):
@@ -59,7 +59,7 @@ class Naming:
         return (name, tuple(pairs), None if result == NOTHING else self._kind(result))
 
     def _method(self, method):
-        self._given = method[1] + method[3]
+        self._variables = method[1] + method[3]
         self._later = 1 + len(method[1])
         return ("method",) + self._head(method[:3]) + (self._body(method[4]),)
 
@@ -91,7 +91,7 @@ class Naming:
         if slot < self._later:
             return ("set", _slot_name(slot), worth)
         self._later = slot + 1
-        return ("var", self._kind(self._given[slot - 1]), _slot_name(slot), worth)
+        return ("var", self._kind(self._variables[slot - 1]), _slot_name(slot), worth)
 
     def _expressions(self, row):
         return tuple([self._expression(e) for e in row])
@@ -104,11 +104,11 @@ class Naming:
                 return ("name", _slot_name(slot)) if slot > 0 else ("this",)
             case ("get", f, _, field):
                 return ("get", self._expression(f), _field_name(field))
-            case ("callc", f, k, row, args):
-                return ("call", self._expression(f), self._classes[k][4][row][0], self._expressions(args))
-            case ("callf", f, package, face, number, args):
+            case ("callc", f, k, row, given):
+                return ("call", self._expression(f), self._classes[k][4][row][0], self._expressions(given))
+            case ("callf", f, package, face, number, given):
                 name = self._package.heads(package, face)[number][0]
-                return ("call", self._expression(f), name, self._expressions(args))
+                return ("call", self._expression(f), name, self._expressions(given))
             case ("new", k):
                 return ("new", self._class_name(k))
             case ("op", sign, f, g):

@@ -33,13 +33,12 @@ def unpack(row):
     """Return the module that has some bytes."""
     if not isinstance(row, tuple) or not all([is_integer(byte, 0, 255) for byte in row]):
         raise BadPackage()
-    if row[:2] != FRONT or row[-3:] != _sum_bytes(row[:-3]):
-        raise BadPackage()
     reader = Reader(row[2:-3])
     reader.read_strings()
     module = ("module",) + reader.read(MODULE)
-    # Each module has exactly one row of bytes, so all other ways to write it are refused.
-    if not reader.is_done() or not is_module(module) or _bytes_of(module) != row:
+    # Each module has exactly one row of bytes. So what is refused here is a wrong front, a wrong sum,
+    # bytes that were not read, and all other ways to write a module.
+    if not is_module(module) or _bytes_of(module) != row:
         raise BadPackage()
     return module
 

@@ -27,10 +27,6 @@ class Reader:
         self._strings = []
         self._codes = {ord(letter): letter for letter in LETTERS}
 
-    def is_done(self):
-        """Tell whether all bytes were read."""
-        return self._place == len(self._row)
-
     def read_strings(self):
         """Read the strings of a module."""
         for _ in range(self._number()):
@@ -57,8 +53,11 @@ class Reader:
                 word = self._item(NAMES)
                 return (word,) + self._all([operand_layout(part) for part in OPERANDS[word]])
             case ("list", inner):
-                return tuple([self.read(inner) for _ in range(self._number())])
+                return self._list(inner)
         return self._all(layout[1:])
+
+    def _list(self, layout):
+        return tuple([self.read(layout) for _ in range(self._number())])
 
     def _all(self, layouts):
         return tuple([self.read(layout) for layout in layouts])
@@ -88,7 +87,7 @@ class Reader:
         return self._codes[code]
 
     def _byte(self):
-        if self.is_done():
+        if self._place == len(self._row):
             raise BadPackage()
         self._place += 1
         return self._row[self._place - 1]

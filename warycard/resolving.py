@@ -95,8 +95,8 @@ class Body:
             case ("get", f, name):
                 owner, k, field = self._field(f, name)
                 return ("get", owner, k, field)
-            case ("call", f, name, args):
-                return self._call(self._expression(f), name, self._expressions(args))
+            case ("call", f, name, given):
+                return self._call(self._expression(f), name, self._expressions(given))
             case ("new", name):
                 return ("new", self._scope.class_number(name))
             case ("seek", kind, text):
@@ -123,16 +123,16 @@ class Body:
         ask(name in names, "there is no such field")
         return owner, kind[1], names.index(name)
 
-    def _call(self, owner, name, args):
+    def _call(self, owner, name, given):
         kind = self._kinds.kind_of(owner)
         match kind:
             case ("class", k):
                 table = self._outlines[k][0][4]
-                return ("callc", owner, k, _place(table, name), args)
+                return ("callc", owner, k, _place(table, name), given)
             case ("face", package, face):
                 heads = self._package.heads(package, face)
                 ask(heads is not None, "a face is not known")
-                return ("callf", owner, package, face, _place(heads, name), args)
+                return ("callf", owner, package, face, _place(heads, name), given)
         raise BadProgram("the value ahead of a call has no methods")
 
 

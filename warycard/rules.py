@@ -50,9 +50,9 @@ class Rules:
             case ("set", slot, e):
                 self._ask_set(slot, e)
             case ("put", e, k, field, f):
-                self._ask_given(f, self._field_kind(e, k, field))
+                self._ask_fits(f, self._field_kind(e, k, field))
             case ("store", e, f, g):
-                self._ask_given(e, BYTES)
+                self._ask_fits(e, BYTES)
                 self._ask_integers((f, g))
             case ("if", e, body, other):
                 self._ask_integers((e,))
@@ -72,7 +72,7 @@ class Rules:
                 ask(self._result == NOTHING, "a result is missing")
             case ("return", e):
                 ask(self._result != NOTHING, "the method has no result")
-                self._ask_given(e, self._result)
+                self._ask_fits(e, self._result)
             case ("throw", e):
                 self._ask_integers((e,))
             case ("do", call, result):
@@ -94,7 +94,7 @@ class Rules:
         self._ask_body(other)
         self._usable[slot] = False
 
-    def _ask_given(self, e, kind):
+    def _ask_fits(self, e, kind):
         """Ask that an expression fits a type."""
         ask(self._package.fits(self._value_kind(e), kind), "a value does not fit its type")
 
@@ -123,19 +123,19 @@ class Rules:
             case ("get", f, k, field):
                 self._field_kind(f, k, field)
             case ("at", f, place):
-                self._ask_given(f, BYTES)
+                self._ask_fits(f, BYTES)
                 self._ask_integers((place,))
             case ("size", f):
-                self._ask_given(f, BYTES)
-            case ("callc", f, k, row, args):
+                self._ask_fits(f, BYTES)
+            case ("callc", f, k, row, given):
                 ask(self._value_kind(f) == ("class", k), "the value ahead of a call has another class")
                 ask(row < len(self._classes[k][4]), "there is no such row")
-                self._ask_args(e, args)
-            case ("callf", f, package, face, number, args):
+                self._ask_arguments(e, given)
+            case ("callf", f, package, face, number, given):
                 ask(self._value_kind(f) == ("face", package, face), "the value ahead of a call has another face")
                 heads = self._package.heads(package, face)
                 ask(heads is not None and number < len(heads), "there is no such head")
-                self._ask_args(e, args)
+                self._ask_arguments(e, given)
             case ("new", k):
                 ask(self._package.is_known(("class", k)), "there is no such class")
             case ("same", f, g):
@@ -160,8 +160,8 @@ class Rules:
             holds = INT not in sides
         ask(holds, "two values cannot be the same")
 
-    def _ask_args(self, call, args):
+    def _ask_arguments(self, call, given):
         _, params, _ = self._kinds.head_of(call)
-        ask(len(args) == len(params), "a call has too many or too few arguments")
-        for arg, param in zip(args, params):
-            self._ask_given(arg, param)
+        ask(len(given) == len(params), "a call has too many or too few arguments")
+        for arg, param in zip(given, params):
+            self._ask_fits(arg, param)
