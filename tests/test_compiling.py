@@ -350,7 +350,8 @@ class ImprovementTest(unittest.TestCase):
                   (("if", ONE, (("begin",),), ()),), (("while", ZERO, (BACK,)),), (("while", TWO, (BACK,)),))
         tests = ((ONE, 1), (ZERO, 0), (("neg", ONE), -1), (("not", ZERO), 1), (("op", "-", ONE, ONE), 0), (("and", TWO, ONE), 1),
                  (("and", ZERO, ("op", "/", ONE, ZERO)), 0), (("or", ONE, ("op", "mod", ONE, ZERO)), 1), (("and", ONE, ZERO), 0),
-                 (("or", ZERO, TWO), 1), (("or", ZERO, ZERO), 0))
+                 (("or", ZERO, TWO), 1), (("or", ZERO, ZERO), 0), (("op", "+", ONE, ONE), 2),
+                 (("not", ("neg", ("op", "-", ONE, ONE))), 1), (("and", ("op", "+", ONE, ONE), ("not", ZERO)), 1))
         more = {"variables": (INT,)}
         for e, worth in tests:
             for rest in ((), (("commit",),), (BACK,)):
