@@ -548,6 +548,21 @@ class PackageTest(Case):
         self.right(tree(faces=(("F", (("a", (), NOTHING),)),)), {})
         self.right(tree(classes=(row("C", fields=(("class", 1),)), row("D", fields=(("class", 0), ("class", 1))))), {})
 
+    def test_bodies_that_use_later_classes(self):
+        # The class 0 uses parts of the class 1 that are wrong themselves.
+        later = ("slot", 1)
+        calls = (("do", ("callc", later, 1, 0, (NULL,)), NOTHING), ("throw", ("is", ("get", later, 1, 0), A)),
+                 ("put", later, 1, 0, NULL), ("throw", ("same", ("get", later, 1, 0), NULL)))
+        for statement in calls:
+            table, methods = holder(("m", (B,), NOTHING))
+            first = row("A", table=table, methods=(methods[0][:4] + ((statement,),),))
+            for kind in (A, (), ("int", 0), ("face",), ("class",), ("class", 9), ("class", "A"), ("face", "own", "X"), NOTHING, INT):
+                table, methods = holder(("h", (kind,), NOTHING), k=1)
+                second = row("B", fields=(kind,), table=table, methods=methods)
+                self.assertIs(is_core(tree(classes=(first, second)), {}), kind == A, (statement, kind))
+                second = row("B", fields=(kind,), table=table)
+                self.wrong(tree(classes=(first, second)), {})
+
     def test_parents(self):
         self.right(tree(classes=(row("C"), row("D", 0), row("E", 1), row("H", 0))), {})
         for parent in (1, 2, -2, True, False, None, "C", 0.0, 61, -1.0):
@@ -661,7 +676,7 @@ class AnyValueTest(Case):
                     self.wrong(replaced(tree(), (place,), value), {})
 
     def test_each_part_exchanged(self):
-        for seed in (10, 22):
+        for seed in (10, 22, 39):
             self.exchange_parts(Programs(seed).core(room=6))
 
     def exchange_parts(self, core):

@@ -40,6 +40,10 @@ def ask_core(value, used):
     ask(sum([len(row[5]) for row in classes]) <= MOST_METHODS, "there are too many methods")
     for k in range(len(classes)):
         _ask_class(package, classes, k)
+    # A body may use any class, so no body is looked at ahead of the classes.
+    for k, row in enumerate(classes):
+        for method in row[5]:
+            Rules(package, classes, k, method).ask_method(method[4])
     ask(list(applets) == sorted(set(applets)), "the applets are not in order")
     for k in applets:
         ask(k < len(classes) and _can_be_applet(classes[k][4]), "an applet has not its methods")
@@ -133,12 +137,10 @@ def _ask_class(package, classes, k):
         above = classes[parent][4]
     _ask_table(above, k, methods, table)
     _ask_faces(package, faces, table)
-    for method in methods:
-        _, params, result, variables, body = method
+    for _, params, result, variables, _ in methods:
         _ask_head(package, params, result)
         for kind in variables:
             ask(package.is_known(kind), "the type of a variable is not known")
-        Rules(package, classes, k, method).ask_method(body)
 
 
 def _ask_table(above, k, methods, table):
