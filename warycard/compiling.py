@@ -1,7 +1,7 @@
 """Makes modules of core trees (points 600 to 609)."""
 
 from warycard.coding import Coder
-from warycard.flow import greatest_height, mark_places
+from warycard.flow import greatest_height
 from warycard.folding import fold_body
 from warycard.improving import shorten
 
@@ -38,11 +38,13 @@ def _method(k, method, improve):
 
 def _placed(lines, handlers):
     """Return the code and the handlers, with places instead of marks."""
-    code = [line for line in lines if line[0] != "mark"]
+    code = []
     places = {}
-    for mark, place in mark_places(lines).items():
-        ahead = [line for line in lines[:place] if line[0] == "mark"]
-        places[mark] = place - len(ahead)
+    for line in lines:
+        if line[0] == "mark":
+            places[line[1]] = len(code)
+        else:
+            code.append(line)
     found = []
     for line in code:
         found.append((line[0], places[line[1]]) if line[0] in ("jump", "jumpif", "jumpnot") else line)
