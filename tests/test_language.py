@@ -28,6 +28,11 @@ INTERFACE = {
     "packing": ("pack", "unpack"),
     "compiling": ("build",),
     "linking": ("World",),
+    "trying": ("try_module",),
+    "looks": ("paper", "judge"),
+    "cells": ("Cells",),
+    "journal": ("JOURNAL_CELLS", "Journal"),
+    "heap": ("BYTES", "TEMP", "BUFFER", "HEAP_CELLS", "Heap"),
 }
 METHODS = {
     ("packages", "Package"): ("fits", "is_known", "heads"),
@@ -35,6 +40,9 @@ METHODS = {
                              "chosen"),
     ("linking", "World"): ("add", "names", "module", "face", "count", "number", "package", "own", "fields", "method", "row",
                            "is_kind", "fits", "applet"),
+    ("cells", "Cells"): ("read", "write", "cut", "restore", "on"),
+    ("journal", "Journal"): ("change", "begin", "commit", "abort", "put_back", "is_open"),
+    ("heap", "Heap"): ("make", "collect", "kind", "owner", "size", "read", "write", "fill", "numbers", "used", "reached"),
 }
 BUILTINS = set("""
     len range enumerate zip min max sum abs sorted reversed int str bool bytes list tuple dict set frozenset
