@@ -33,6 +33,11 @@ INTERFACE = {
     "cells": ("Cells",),
     "journal": ("JOURNAL_CELLS", "Journal"),
     "heap": ("BYTES", "TEMP", "BUFFER", "HEAP_CELLS", "Heap"),
+    "names": ("NAMES_CELLS", "CHARACTERS", "Names"),
+    "machine": ("Machine",),
+    "card": ("Card",),
+    "scripts": ("parse_script", "run"),
+    "judging": ("fault",),
 }
 METHODS = {
     ("packages", "Package"): ("fits", "is_known", "heads"),
@@ -42,6 +47,10 @@ METHODS = {
                            "is_kind", "fits", "applet"),
     ("cells", "Cells"): ("read", "write", "cut", "restore", "on"),
     ("journal", "Journal"): ("change", "begin", "commit", "abort", "put_back", "is_open"),
+    ("names", "Names"): ("put", "remove", "rows"),
+    ("machine", "Machine"): ("run", "looks"),
+    ("card", "Card"): ("load", "make", "choose", "send", "drop", "collect", "cut", "reset", "chosen", "state", "used", "on",
+                       "looks"),
     ("heap", "Heap"): ("make", "collect", "kind", "owner", "size", "read", "write", "fill", "numbers", "used", "reached"),
 }
 BUILTINS = set("""
@@ -325,7 +334,7 @@ class LanguageTest(unittest.TestCase):
             if isinstance(node, (ast.Name, ast.Attribute, ast.FunctionDef, ast.ClassDef)):
                 name = getattr(node, "id", getattr(node, "attr", getattr(node, "name", "")))
                 self.assertNotIn(name, WORDS + NAMES)
-                self.assertTrue(name in ("__init__",) or re.match(r"^_?[A-Za-z][A-Za-z0-9_]*$|^_$", name), name)
+                self.assertTrue(name in ("__init__", "__call__") or re.match(r"^_?[A-Za-z][A-Za-z0-9_]*$|^_$", name), name)
 
     def test_interface(self):
         for stem, names in INTERFACE.items():

@@ -34,6 +34,8 @@ class Memory:
         self._power = True
         # The number of effects up to the failure of the power, or None.
         self._left = None
+        # What may let the power fail at an effect, or None.
+        self._watcher = None
 
     def has_power(self):
         """Tell whether the power is on."""
@@ -43,22 +45,40 @@ class Memory:
         """Let the power fail behind a number of effects."""
         self._left = effects
 
+    def watch(self, watcher):
+        """Let the power fail in the place of the first effect that a watcher stops."""
+        self._watcher = watcher
+
     def reset(self):
         """Switch the power on."""
         self._power = True
         self._left = None
+        self._watcher = None
         self.buffer.clear_temp()
         for thing in self._things:
             thing.clear_temp()
 
     def effect(self):
         """Let one more effect happen, unless the power fails in its place."""
-        if self._left == 0:
+        if self._left == 0 or self._watcher is not None and self._watcher.stops():
             self.close()
             self._power = False
             raise PowerCut()
         if self._left is not None:
             self._left -= 1
+
+    def copy(self):
+        """Return another memory that holds the same as if no transaction were open, and its objects by those here."""
+        other = Memory()
+        twins = {thing: Thing(thing.form, thing.keeper, list(thing.held)) for thing in self._things}
+        for thing, place, value in reversed(self._noted):
+            twins[thing].held[place] = value
+        for twin in twins.values():
+            twin.hold([twins[value] if isinstance(value, Thing) else value for value in twin.held])
+        other._things = list(twins.values())
+        other._power = self._power
+        other.buffer.hold(list(self.buffer.held))
+        return other, twins
 
     def fill(self, data):
         """Fill the buffer."""

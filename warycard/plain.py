@@ -1,14 +1,12 @@
 """The plain reading of programs (points 400 to 424)."""
 
+from warycard.answers import OFF, OK, faulty, refused, send_answer
+from warycard.answers import choose_refusal, drop_refusal, load_refusal, make_refusal, send_refusal
 from warycard.errors import Fault, PowerCut, StepsGone
-from warycard.limits import MOST_APPLETS, MOST_BUFFER, MOST_CHANNELS, STEPS
+from warycard.limits import MOST_APPLETS, MOST_CHANNELS, STEPS
 from warycard.memory import Memory, Thing, reached
 from warycard.running import Run
 from warycard.shelf import Shelf, first_values
-from warycard.texts import is_integer, is_text
-
-OFF = ("off",)
-OK = ("ok",)
 
 
 class PlainCard:
@@ -26,11 +24,9 @@ class PlainCard:
         """Put a package on the card."""
         if not self._memory.has_power():
             return OFF
-        _, name, _, uses, _, _, _ = core
-        if self._shelf.has(name):
-            return _refused("twice")
-        if not all([self._shelf.has_version(package, version) for package, version in uses]):
-            return _refused("used")
+        refusal = load_refusal(core[1], core[3], self._shelf.versions())
+        if refusal is not None:
+            return refusal
         self._shelf.put(core)
         return OK
 
@@ -39,17 +35,10 @@ class PlainCard:
         if not self._memory.has_power():
             return OFF
         form = self._shelf.applet_form(package, class_name)
-        if not is_text(name):
-            return _refused("name")
-        if not _is_data(data):
-            return _refused("data")
-        if form is None:
-            return _refused("class")
-        if self._owner(name) != 0:
-            return _refused("taken")
         owners = self._free_owners()
-        if len(owners) == 0:
-            return _refused("places")
+        refusal = make_refusal(name, data, form is not None, self._names(), owners)
+        if refusal is not None:
+            return refusal
         try:
             return self._make(owners[0], form, name, data)
         except PowerCut:
@@ -59,10 +48,9 @@ class PlainCard:
         """Choose an applet on a channel."""
         if not self._memory.has_power():
             return OFF
-        if not _is_channel(channel):
-            return _refused("channel")
-        if self._owner(name) == 0:
-            return _refused("name")
+        refusal = choose_refusal(channel, name, self._names())
+        if refusal is not None:
+            return refusal
         self._taken[channel] = name
         return OK
 
@@ -70,14 +58,11 @@ class PlainCard:
         """Send data to the applet that is chosen on a channel."""
         if not self._memory.has_power():
             return OFF
-        if not _is_channel(channel):
-            return _refused("channel")
-        if not _is_data(data):
-            return _refused("data")
-        if self._taken[channel] is None:
-            return _refused("empty")
+        refusal = send_refusal(channel, data, self._taken)
+        if refusal is not None:
+            return refusal
         try:
-            return self._send(self._owner(self._taken[channel]), data)
+            return self._send(self._names()[self._taken[channel]], data)
         except PowerCut:
             return OFF
 
@@ -85,14 +70,13 @@ class PlainCard:
         """Remove the name of an applet."""
         if not self._memory.has_power():
             return OFF
-        owner = self._owner(name)
-        if owner == 0:
-            return _refused("name")
-        if name in self._taken:
-            return _refused("chosen")
+        refusal = drop_refusal(name, self._names(), self._taken)
+        if refusal is not None:
+            return refusal
+        owner = self._names()[name]
         others = [thing for place, (_, thing) in self._applets.items() if place != owner]
         if owner in [thing.keeper for thing in reached(others)]:
-            return _refused("held")
+            return refused("held")
         try:
             self._memory.effect()
         except PowerCut:
@@ -137,12 +121,23 @@ class PlainCard:
         """Return the names that are chosen on the channels."""
         return tuple(self._taken)
 
-    def _owner(self, name):
-        """Return the owner of the applet with a name, or 0."""
-        for owner, (other, _) in self._applets.items():
-            if isinstance(name, str) and other == name:
-                return owner
-        return 0
+    def copy(self):
+        """Return another card that has what this one has, as if no transaction were open."""
+        other = PlainCard()
+        other._shelf = self._shelf.copy()
+        memory, twins = self._memory.copy()
+        other._memory = memory
+        other._applets = {owner: (name, twins[thing]) for owner, (name, thing) in self._applets.items()}
+        other._taken = list(self._taken)
+        return other
+
+    def watch(self, watcher):
+        """Let the power fail in the place of the first effect that a watcher stops."""
+        self._memory.watch(watcher)
+
+    def _names(self):
+        """Return the owners of the applets, by their names."""
+        return {name: owner for owner, (name, _) in self._applets.items()}
 
     def _roots(self):
         """Return the objects of the applets, in the order of their owners."""
@@ -156,21 +151,17 @@ class PlainCard:
         try:
             thing = self._memory.make(form, owner, first_values(self._shelf.field_kinds(form)))
         except Fault as fault:
-            return ("fault", fault.code)
+            return faulty(fault.code)
         code, _ = self._run(thing, "made", data)
         if code is not None:
-            return ("fault", code)
+            return faulty(code)
         self._memory.effect()
         self._applets[owner] = (name, thing)
         return OK
 
     def _send(self, owner, data):
         code, many = self._run(self._applets[owner][1], "process", data)
-        if code is not None:
-            return ("fault", code)
-        if not 0 <= many <= MOST_BUFFER:
-            return _refused("size")
-        return ("ok", tuple(self._memory.buffer.held[:many]))
+        return send_answer(many, self._memory.buffer.held) if code is None else faulty(code)
 
     def _run(self, thing, word, data):
         """Run a method; return the pair of the fault that ends it, or None, and its result."""
@@ -194,19 +185,3 @@ class PlainCard:
             kind = ("class", thing.form[1], self._shelf.class_name(thing.form))
         held = [("object", numbers[value]) if isinstance(value, Thing) else value for value in thing.held]
         return kind, thing.keeper, tuple(held)
-
-
-def _refused(reason):
-    return ("refused", reason)
-
-
-def _is_data(value):
-    return (
-        isinstance(value, tuple)
-        and len(value) <= MOST_BUFFER
-        and all([is_integer(item, 0, 255) for item in value])
-    )
-
-
-def _is_channel(value):
-    return is_integer(value, 0, MOST_CHANNELS - 1)

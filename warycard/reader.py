@@ -3,16 +3,12 @@
 from warycard.errors import BadPackage
 from warycard.instructions import NAMES
 from warycard.layouts import KIND_PARTS, KINDS, operand_layout
+from warycard.names import CHARACTERS
 from warycard.operands import OPERANDS
 from warycard.words import SIGNS
 
 # No number in a module, and no number of its strings, has more digits.
 MOST_DIGITS = 3
-# All characters of names and texts, in the order of their codes; the percent sign is none of them.
-LETTERS = (
-    " !#$&'()*+,-./0123456789:;<=>?@ABCDEFGHIJKLMNOPQRSTUVWXYZ"
-    "[\\]^_`abcdefghijklmnopqrstuvwxyz{|}~"
-)
 
 
 class Reader:
@@ -25,7 +21,7 @@ class Reader:
         self._row = row
         self._place = 0
         self._strings = []
-        self._codes = {ord(letter): letter for letter in LETTERS}
+        self._codes = {ord(letter): letter for letter in CHARACTERS}
 
     def read_strings(self):
         """Read the strings of a module."""

@@ -10,17 +10,19 @@ class Shelf:
     def __init__(self):
         self._cores = {}
 
-    def has(self, package):
-        """Tell whether there is a package with a name."""
-        return package in self._cores
-
-    def has_version(self, package, version):
-        """Tell whether there is a package with a name and a version."""
-        return package in self._cores and self._cores[package][2] == version
+    def versions(self):
+        """Return the versions of the packages, by their names."""
+        return {name: core[2] for name, core in self._cores.items()}
 
     def put(self, core):
         """Put a package on the shelf."""
         self._cores[core[1]] = core
+
+    def copy(self):
+        """Return another shelf with the same packages."""
+        other = Shelf()
+        other._cores = dict(self._cores)
+        return other
 
     def applet_form(self, package, name):
         """Return the kind of the objects of an applet class, or None if there is no such class."""
