@@ -12,7 +12,7 @@ STATEMENTS = (
     "buffer[K] = X;", "Base x = new Heir; x.next = this.next; this.next = x; x.n = X;", "this.next = (this.next as Heir);",
     "Base x = new Base; x.b = this.b; x.o = this; this.next = x;", "this.next = null;", "this.next = this.next.next;",
     "this.p = seek bank.Pay WHO;", "this.p = this.p.peer(this.p);", "this.n = this.p.pay(X, this.b);", "this.b = this.p.row(this.b);",
-    "this.o = seek Own WHO;", "this.o = this.o.other(this.o, X);", "this.o = this;", "this.n = this.o.told(this.b, X);",
+    "this.o = seek Own WHO;", "this.o = seek Own WHO;", "this.o = seek Own WHO; this.n = this.o.told(this.b, 0);", "this.o = this.o.other(this.o, X);", "this.o = this;", "this.n = this.o.told(this.b, X);",
     "this.b = this.o.more(X);", "this.n = (this.o as Base).n;", "(this.o as Heir).b = new bytes(K);", "this.n = (this.o is Base);",
     "begin; this.n = X; this.n = this.n + 1; this.b[K] = X; commit;", "begin; this.n = X; this.b = null; abort;", "begin;", "commit;",
     "abort;", "begin; this.next = new Heir; this.n = X;", "int i = 0; while (i < K) { i = i + 1; this.n = this.n + i; }",
@@ -39,7 +39,7 @@ class Lively:
         while "X" in text:
             text = text.replace("X", self.value(), 1)
         text = text.replace("K", str(self.chance.choice((0, 1, 2, 3, 4, 7)))).replace("WHO", '"' + self.chance.choice(NAMES) + '"')
-        if self.chance.random() < 0.8:
+        if self.chance.random() < 0.9:
             text = "try { " + text + " } catch (f) { " + self.chance.choice(("", "this.n = f;", "this.n = this.n - f;", "abort;")) + " }"
         return "if (1) { " + text + " }"
 
@@ -82,12 +82,13 @@ class Lively:
         chance = self.chance
         found = []
         for place in range(many):
-            kind = chance.choice(("make", "make", "choose", "choose", "send", "send", "send", "send", "drop", "collect"))
-            if place < 6:
-                kind = ("make", "make", "choose", "make", "choose", "send")[place]
+            kind = chance.choice(("make", "choose", "choose", "send", "send", "send", "send", "send", "send", "drop", "collect"))
+            if place < 7:
+                kind = ("make", "make", "choose", "make", "choose", "make", "send")[place]
             data = tuple(chance.randrange(7) for _ in range(chance.randrange(4)))
             if kind == "make":
-                found.append((kind, chance.choice(("bank", "shop", "home")), chance.choice(("Base", "Heir")), chance.choice(NAMES), data))
+                name = NAMES[(0, 1, 0, 2, 0, 3)[place]] if place < 6 else chance.choice(NAMES)
+                found.append((kind, chance.choice(("bank", "shop", "home")), chance.choice(("Base", "Heir")), name, data))
             elif kind == "choose":
                 found.append((kind, chance.randrange(2), chance.choice(NAMES)))
             elif kind == "send":
