@@ -257,6 +257,17 @@ class CallsTest(unittest.TestCase):
         self.assertEqual(self.do("send", 3, (8,)), ("ok", (8, 7, 0)))
         self.assertEqual(self.do("send", 3, (0,) * 64)[1][2], 4)
 
+    def test_all_applets_with_long_names(self):
+        """The cells of the names, of the journal and of the objects do not overlap."""
+        names = [letter * 16 for letter in "~}|{zyxw"]
+        for name in names:
+            self.assertEqual(self.do("make", "shop", "Shop", name, ()), OK)
+        for name in names:
+            self.do("choose", 0, name)
+            for data in ((3, 0), (3, 1), (0,), (5,)):
+                self.do("send", 0, data)
+            self.do("collect")
+
     def test_sizes_of_answers(self):
         self.do("make", "shop", "Shop", "one", ())
         self.do("choose", 0, "one")

@@ -234,6 +234,27 @@ class CollectTest(HeapCase):
                              ((5, 3), [5, 3, 6, 1, 4]), ([2], [2])):
             self.assertEqual(self.heap.reached(roots, pairs), right)
 
+    def test_references_of_the_first_class(self):
+        for _ in range(2):
+            self.heap.make(0, 1, 1)
+        self.heap.make(BYTES, 1, 1)
+        self.heap.write(1, 0, 2)
+        self.heap.write(2, 0, 3)
+        self.heap.write(3, 0, 1)
+        asked = []
+        self.assertEqual(self.heap.reached([1], lambda kind: asked.append(kind) or [0]), [1, 2, 3])
+        # Objects of other kinds refer to none, and are not asked about.
+        self.assertEqual(asked, [0, 0])
+
+    def test_a_full_room(self):
+        """What stands ahead of the table of the second half is no object."""
+        for _ in range(6):
+            self.heap.make(BYTES, 1, 63 if len(self.heap.numbers()) < 5 else 67)
+        self.assertEqual(self.heap.used(), (400, 6))
+        self.heap.write(6, 66, 5)
+        self.heap.collect([2], pairs)
+        self.assertEqual((self.heap.numbers(), self.heap.used()), ([2], (66, 1)))
+
     def test_order_of_reached(self):
         """First the roots, then what the first one refers to, and so on."""
         for _ in range(7):

@@ -106,6 +106,10 @@ class JudgeTest(unittest.TestCase):
         use = "package p 1; use shop 2;"
         self.ask([("load", use), ("load", use.replace("2", "3"))], [(OK, on(0, 0)), (("refused", "program"), on(0, 0))], None)
         self.ask([("load", use)], [(("refused", "used"), on(0, 0))], 0)
+        # Of two packages with one name the first one counts.
+        other = "package shop 3;"
+        self.ask([("load", other), ("load", use)], [(("refused", "twice"), on(0, 0)), (OK, on(0, 0))], None)
+        self.ask([("load", other), ("load", "package p 1; use shop 3;")], [(("refused", "twice"), on(0, 0)), (("refused", "program"), on(0, 0))], None)
 
     def off(self, number, picture, right, call=("send", 0, ()), reset=None, cut=4):
         """Let the power fail in a call, and tell a picture behind the reset."""

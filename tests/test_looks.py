@@ -342,6 +342,30 @@ class JudgeTest(unittest.TestCase):
             self.assertRaises(BadPaper, judge, world, "x", ("looks", (), (), ((0, place, (), (3,)),)))
         self.assertEqual(own.looks, ())
 
+    def test_a_place_to_which_a_later_jump_alone_leads(self):
+        head = ("m", (("bytes",),), ("nothing",))
+        code = (("jump", 4), ("step",), ("load", 1), ("jump", 7), ("const", 1), ("jumpif", 1), ("load", 1), ("size",), ("pop",), ("return",))
+        module = ("module", "x", 1, (), (), (("A", -1, (), (), (head + (0,),)),), ((0,) + head + ((), 3, code, ()),), ())
+        world = world_of(module)
+        best = paper(world, "x")
+        self.assertEqual(best, ("looks", (), ((0, (1,), 0),), ((0, 1, (), ()), (0, 4, (), ()), (0, 7, (), ()))))
+        self.assertEqual(judge(world, "x", best), ((0, 7),))
+        for places in (best[3][1:], best[3][:1] + best[3][2:], best[3][:2]):
+            self.assertRaises(BadPaper, judge, world, "x", best[:3] + (places,))
+        # What is loose at the step is loose at the place to which both ways lead.
+        loose = tuple((number, place, (1,), (0,) * (place == 7)) for number, place, _, _ in best[3])
+        self.assertEqual(judge(world, "x", best[:3] + (loose,)), ())
+        self.assertRaises(BadPaper, judge, world, "x", best[:3] + (loose[:1] + best[3][1:],))
+        self.assertEqual(judge(world, "x", best[:3] + (loose[:1] + best[3][1:2] + loose[2:],)), ())
+
+    def test_rows_for_the_same_place(self):
+        first = self.places[0]
+        for row in (first, first[:2] + ((1,), ()), first[:2] + ((), (0,))):
+            self.bad(places=(first, row) + self.places[1:])
+            self.bad(places=(row, first) + self.places[1:])
+        self.bad(places=(self.places[1], first) + self.places[2:])
+        self.bad(calls=(self.calls[0][:1] + ((), 0),) + self.calls)
+
     def test_fields_and_calls(self):
         for fields in (((0, 1),), ((0, 2),), ((1, 0),), ((-1, 0),), ((0, -1),), ((0, 0), (0, 0)), ((False, 0),), ((0, False),),
                        [(0, 0)], ([0, 0],), ((0,),), ((0, 0, 0),), (0, 0), ((0, 0), (0, 1)), ((0.0, 0),), (("0", 0),)):

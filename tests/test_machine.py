@@ -501,6 +501,16 @@ class LooksTest(MachineCase):
             self.assertEqual((self.run_it(), self.machine.looks()), (4, 3))
             self.assertEqual((self.run_it(), self.machine.looks()), (4, 6))
 
+    def test_needless_looks_of_later_runs(self):
+        """What the dict has when a run begins counts for this run."""
+        needless = {}
+        self.ready(self.code, needless=needless)
+        self.machine = Machine(self.world, self.heap, self.journal, self.seek, needless)
+        self.heap.write(self.one, ROW, self.heap.make(BYTES_KIND, 1, 3))
+        self.assertEqual((self.run_it(), self.machine.looks()), (4, 3))
+        needless["own"] = ((0, 2), (0, 8))
+        self.assertEqual((self.run_it(), self.machine.looks()), (4, 4))
+
     def test_no_look_at_null(self):
         self.ready(self.code)
         self.assertEqual((self.run_it(), self.machine.looks()), (self.fails(NULL), 0))

@@ -8,12 +8,15 @@ from warycard.limits import MOST_APPLETS, MOST_TEXT
 from warycard.names import CHARACTERS, NAMES_CELLS, Names
 from warycard.texts import is_printable, is_text
 
-START = 3
+START = 25
 
 
 class NamesTest(unittest.TestCase):
     def setUp(self):
         self.cells = Cells(START + NAMES_CELLS + 2)
+        # What stands around them does not matter.
+        for place in list(range(START)) + [START + NAMES_CELLS, START + NAMES_CELLS + 1]:
+            self.cells.write(place, 1)
         self.names = Names(self.cells, START)
 
     def row(self):
@@ -70,8 +73,8 @@ class NamesTest(unittest.TestCase):
         for owner in (3, 1, 8, 5, 2, 7, 4, 6):
             self.names.put(owner, 10 + owner, "applet " + str(owner))
         self.assertEqual(self.names.rows(), [(owner, 10 + owner, "applet " + str(owner)) for owner in range(1, 9)])
-        self.assertEqual(self.row()[:START], [0] * START)
-        self.assertEqual(self.row()[-2:], [0, 0])
+        self.assertEqual(self.row()[:START], [1] * START)
+        self.assertEqual(self.row()[-2:], [1, 1])
 
     def test_cut(self):
         """The applet is there from the last write of put on, and up to the write of remove."""

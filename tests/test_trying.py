@@ -180,6 +180,7 @@ class PlacesTest(unittest.TestCase):
             self.assertEqual(accepts([("const", 1), ("jumpnot", place), BACK], formed=False), place == 2)
         for word in ("jump", "jumpif", "jumpnot"):
             ahead = [] if word == "jump" else [("const", 1)]
+            self.assertFalse(accepts(ahead + [(word, -1), BACK, ("step",)], formed=False))
             place = len(ahead)
             # To the own place, and back to a step and to something else.
             self.assertFalse(accepts(ahead + [(word, place), BACK]))

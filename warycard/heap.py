@@ -22,7 +22,7 @@ class Heap:
         self._journal = journal
         self._start = start
         self._buffer = [0] * MOST_BUFFER
-        # The values of the objects of the kind TEMP that were reached, by their numbers; all others have the value 0.
+        # The values of objects of the kind TEMP, by their numbers; those of all others are 0.
         self._temps = {}
 
     def make(self, kind, owner, size):
@@ -38,7 +38,7 @@ class Heap:
         free = [number for number in range(1, MOST_OBJECTS + 1) if number not in there]
         self._write_row(half + free[0] - 1, [place + 1])
         if kind == TEMP:
-            # The number may have been that of another object.
+            # The number may have been that of another such object.
             self._temps[free[0]] = [0] * size
         return free[0]
 
@@ -112,7 +112,6 @@ class Heap:
         self._write_row(other, table)
         # The objects count where they stand now from this write on.
         self._cells.write(self._start, 1 - self._cells.read(self._start))
-        self._temps = {number: row for number, row in self._temps.items() if table[number - 1] != 0}
 
     def _half(self):
         """Return the place of the half that is in use; its table stands there."""

@@ -29,7 +29,6 @@ class Machine:
         self._frames = []
         self._skipped = {}
         self._steps = 0
-        self._returned = []
         g = self.heap.kind(number)
         table = self.world.module(self.world.package(g))[5][self.world.own(g)][4]
         self._enter(number, [row[0] for row in table].index(name), [value])
