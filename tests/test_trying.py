@@ -10,6 +10,7 @@ from codebundle import A, ALONE, B, BANK, BYTES, D, F, FAR, G, INT, NOTHING, NUL
 from programs import USED, Programs
 from typeform import passes
 from warycard.compiling import build
+from warycard.core import is_core
 from warycard.errors import BadCode
 from warycard.modules import is_module
 from warycard.trying import try_module
@@ -298,16 +299,43 @@ class ModulesTest(unittest.TestCase):
             for improve in (False, True):
                 self.assertTrue(self.tried(build(core, improve=improve)), seed)
 
+    def great(self, variables, body, params=(INT,)):
+        """Return a core tree with a method that has a body."""
+        methods = (("m", params, NOTHING, variables, body), ("f", (INT,) * 57, INT, (), (("return", ("int", 1)),)))
+        table = (("m", params, NOTHING, 0, 0), ("f", (INT,) * 57, INT, 0, 1))
+        core = ("core", "own", 1, (), (), (("A", -1, (), (), table, methods),), ())
+        self.assertTrue(is_core(core, {}))
+        return core
+
     def test_great_methods_pass(self):
-        # 300 nodes: as many tries as there may be handlers, within one another and side by side.
-        one = ("begin",)
-        many = tuple([("try", (one,), 2 + slot, (one,)) for slot in range(50)])
-        for body, slots in ((many, (INT,) * 50), ((("return", None),), ()),
-                            (tuple([("set", 2, ("null",))] * 149 + [("return", None)]), (BYTES,))):
-            core = ("core", "own", 1, (), (), (("A", -1, (), (), (("m", (INT,), NOTHING, 0, 0),),
-                                                (("m", (INT,), NOTHING, slots, body),)),), ())
+        begin = ("begin",)
+        # As many tries as there may be variables, and as many nodes as there may be in a method.
+        tries = tuple([("try", (begin,) * 2, 2 + slot, (begin,) * 2) for slot in range(60)])
+        deep = ("throw", ("int", 1))
+        for slot in range(14):
+            deep = ("try", (begin, deep), 2 + slot, (begin,))
+        call = ("int", 1)
+        # Five calls with many args, each in the last arg of another one.
+        for _ in range(5):
+            call = ("callc", ("slot", 0), 0, 1, (("int", 2),) * 56 + (call,))
+        either = ("slot", 1)
+        for _ in range(13):
+            either = ("or", ("and", ("slot", 1), ("slot", 1)), either)
+        cores = (
+            self.great((INT,) * 60, tries),
+            self.great((INT,) * 14, (deep,)),
+            self.great((BYTES,), tuple([("set", 2, ("null",))] * 150)),
+            self.great((), (("do", call, INT),)),
+            self.great((), (("throw", either),)),
+            self.great((), tuple([("if", ("slot", 1), (begin,), (begin,))] * 75)),
+        )
+        highest = 0
+        for core in cores:
             for improve in (False, True):
-                self.assertTrue(self.tried(build(core, improve=improve)))
+                module = build(core, improve=improve)
+                self.assertTrue(self.tried(module))
+                highest = max(highest, module[6][0][5])
+        self.assertGreater(highest, 280)
 
     def with_method(self, code, handlers=(), stack=0):
         head = ("m", (INT,), NOTHING)

@@ -1,6 +1,7 @@
 """The judge of what was told of a run (points 1306 to 1308)."""
 
 from warycard.answers import OFF, OK, refused
+from warycard.calling import call_card
 from warycard.plain import PlainCard
 from warycard.sources import Sources
 
@@ -36,7 +37,7 @@ class Judge:
             return answer == OFF and picture is None
         if answer == OFF:
             return self._explains_failure(call, picture)
-        return self._perform(self._card, call) == answer and self._has_picture(picture)
+        return self._answer(call) == answer and self._has_picture(picture)
 
     def _has_picture(self, picture):
         if self._failed is not None:
@@ -47,7 +48,7 @@ class Judge:
         if call[0] not in EFFECTIVE or not self._may_fail or picture is not None:
             return False
         self._failed = call
-        done = self._perform(self._card.copy(), call)
+        done = call_card(self._card.copy(), call)
         return done[0] != "refused" or done == refused("size")
 
     def _explains_reset(self, writes, picture):
@@ -59,32 +60,21 @@ class Judge:
             return writes is not None
         card = self._card.copy()
         card.watch(Watcher(card, picture))
-        self._perform(card, self._failed)
+        call_card(card, self._failed)
         card.reset()
         self._card = card
         self._failed = None
         return self._has_picture(picture)
 
-    def _perform(self, card, call):
-        """Return what a plain card answers to a call."""
-        match call:
-            case ("load", text):
-                return self._load(card, text)
-            case ("make", package, class_name, name, data):
-                return card.make(package, class_name, name, data)
-            case ("choose", channel, name):
-                return card.choose(channel, name)
-            case ("send", channel, data):
-                return card.send(channel, data)
-            case ("drop", name):
-                return card.drop(name)
-        return card.collect()
+    def _answer(self, call):
+        """Return what the plain card answers to a call that is no "cut" and no "reset"."""
+        return self._load(call[1]) if call[0] == "load" else call_card(self._card, call)
 
-    def _load(self, card, text):
+    def _load(self, text):
         core, refusal = self._sources.core_of(text)
         if refusal is not None:
             return refusal
-        answer = card.load(core)
+        answer = self._card.load(core)
         if answer == OK:
             self._sources.note(core)
         return answer

@@ -1,6 +1,7 @@
 """Scripts and their runs (points 1300 to 1305)."""
 
 from warycard.answers import OFF, OK
+from warycard.calling import call_card
 from warycard.card import Card
 from warycard.compiling import build
 from warycard.errors import BadScript
@@ -53,19 +54,11 @@ def _perform(card, sources, call):
     match call:
         case ("load", text):
             return _load(card, sources, text)
-        case ("make", package, class_name, name, data):
-            return card.make(package, class_name, name, data)
-        case ("choose", channel, name):
-            return card.choose(channel, name)
-        case ("send", channel, data):
-            return card.send(channel, data)
-        case ("drop", name):
-            return card.drop(name)
         case ("cut", writes):
             return card.cut(writes)
         case ("reset", writes):
             return card.reset(writes)
-    return card.collect()
+    return call_card(card, call)
 
 
 def _load(card, sources, text):
