@@ -19,7 +19,7 @@ def judge(world, name, paper):
         claims.update({("param", number, slot): True for slot in slots})
         if result == 1:
             claims[("result", number)] = True
-    named = [{} for method in outline.methods]
+    named = [{} for _ in outline.methods]
     for number, place, slots, stack in places:
         named[number][place] = (slots, stack)
     found = []
